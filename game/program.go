@@ -5,7 +5,11 @@ import (
 	"strings"
 
 	"aloeswood/api"
+	"aloeswood/numeral"
 )
+
+// digits is how many digits a number of a program may have.
+const digits = 6
 
 // field is one of the numbers of a deal.
 type field func(*api.Deal) *int
@@ -98,7 +102,7 @@ func readWood(g *api.Game, words []string) bool {
 	if len(words) != 2 || words[0] == "" || len(g.Deals) > 0 {
 		return false
 	}
-	family, is := number(words[1])
+	family, is := numeral.Read(words[1], digits)
 	// The game shall keep no part of the text.
 	g.Woods = append(g.Woods, api.Wood{Name: strings.Clone(words[0]), Family: family})
 	return is
@@ -111,7 +115,7 @@ func readDeal(g *api.Game, kind int, fields []field, words []string) bool {
 	}
 	d := api.Deal{Kind: kind}
 	for i, of := range fields {
-		n, is := number(words[i])
+		n, is := numeral.Read(words[i], digits)
 		if !is {
 			return false
 		}
@@ -119,20 +123,4 @@ func readDeal(g *api.Game, kind int, fields []field, words []string) bool {
 	}
 	g.Deals = append(g.Deals, d)
 	return true
-}
-
-// number returns the number that a word is, and whether it is one: of at most 6 digits, without needless zeros.
-func number(word string) (int, bool) {
-	const longest = 6
-	if word == "" || len(word) > longest || word[0] == '0' && word != "0" {
-		return 0, false
-	}
-	n := 0
-	for i := range len(word) {
-		if word[i] < '0' || word[i] > '9' {
-			return 0, false
-		}
-		n = 10*n + int(word[i]-'0')
-	}
-	return n, true
 }
