@@ -6,6 +6,7 @@ import (
 
 	"aloeswood/api"
 	"aloeswood/numeral"
+	"aloeswood/rows"
 )
 
 // digits is how many digits a number of a program may have.
@@ -71,12 +72,9 @@ func Read(text string) (g api.Game, row int, e api.Errno) {
 	if len(text) > api.MaxScript {
 		return api.Game{}, 0, api.ErrLong
 	}
-	for row := 1; text != ""; row++ {
-		line, behind, ended := strings.Cut(text, "\n")
-		if !ended || !readRow(&g, strings.Split(line, " ")) {
-			return api.Game{}, row, api.ErrForm
-		}
-		text = behind
+	row, all := rows.Read(text, func(_ int, words []string) bool { return readRow(&g, words) })
+	if !all {
+		return api.Game{}, row, api.ErrForm
 	}
 	if e := Check(g); e != api.OK {
 		return api.Game{}, 0, e

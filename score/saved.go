@@ -7,6 +7,7 @@ import (
 
 	"aloeswood/api"
 	"aloeswood/numeral"
+	"aloeswood/rows"
 )
 
 // The words of a saved table.
@@ -63,18 +64,13 @@ func Load(text string) (t api.Table, row int, e api.Errno) {
 		return api.Table{}, 0, api.ErrLong
 	}
 	var l loading
-	for !l.ended {
-		line, behind, whole := strings.Cut(text, "\n")
-		row++
-		if !whole || !l.read(row, strings.Split(line, " ")) {
-			return api.Table{}, row, api.ErrForm
-		}
-		text = behind
-	}
-	if text != "" {
+	row, all := rows.Read(text, l.read)
+	switch {
+	case !all:
+		return api.Table{}, row, api.ErrForm
+	case !l.ended:
 		return api.Table{}, row + 1, api.ErrForm
-	}
-	if l.guests != len(l.Answers) {
+	case l.guests != len(l.Answers):
 		return api.Table{}, row, api.ErrClash
 	}
 	if e := CheckTable(l.Table); e != api.OK {
@@ -94,6 +90,8 @@ type loading struct {
 func (l *loading) read(row int, words []string) bool {
 	first, others := words[0], words[1:]
 	switch {
+	case l.ended:
+		return false
 	case row == 1:
 		return first == tableWord && l.readTable(others)
 	case first == guestWord:
