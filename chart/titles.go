@@ -4,6 +4,7 @@ import (
 	"slices"
 
 	"aloeswood/api"
+	"aloeswood/name"
 )
 
 // Title returns the title of a partition.
@@ -43,7 +44,7 @@ func checkTitles(titles []string, n int) api.Errno {
 		return api.ErrForm
 	}
 	for i, title := range titles {
-		if !isTitle(title) {
+		if !name.Is(title, api.MaxTitle) {
 			return api.ErrForm
 		}
 		if slices.Contains(titles[:i], title) {
@@ -51,14 +52,4 @@ func checkTitles(titles []string, n int) api.Errno {
 		}
 	}
 	return api.OK
-}
-
-// isTitle tells whether a title has 1 to MaxTitle small letters.
-func isTitle(title string) bool {
-	for i := range len(title) {
-		if title[i] < 'a' || title[i] > 'z' {
-			return false
-		}
-	}
-	return len(title) >= 1 && len(title) <= api.MaxTitle
 }

@@ -108,16 +108,13 @@ func readWood(g *api.Game, words []string) bool {
 
 // readDeal puts a deal into a game; it tells whether its words are the numbers for its fields.
 func readDeal(g *api.Game, kind int, fields []field, words []string) bool {
-	if len(words) != len(fields) {
-		return false
-	}
 	d := api.Deal{Kind: kind}
-	for i, of := range fields {
-		n, is := numeral.Read(words[i], digits)
-		if !is {
-			return false
-		}
-		*of(&d) = n
+	var places []*int
+	for _, of := range fields {
+		places = append(places, of(&d))
+	}
+	if !numeral.ReadAll(words, digits, places...) {
+		return false
 	}
 	g.Deals = append(g.Deals, d)
 	return true

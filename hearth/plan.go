@@ -37,7 +37,7 @@ func Write(f api.Fire) (string, api.Errno) {
 	var text strings.Builder
 	row := func(words ...string) { text.WriteString(strings.Join(words, " ") + "\n") }
 	for _, c := range f.Coals {
-		words := append([]string{coalWord}, written(coalNumbers(&c))...)
+		words := append([]string{coalWord}, numeral.Words(coalNumbers(&c)...)...)
 		if c.Lit {
 			row(append(words, litWord)...)
 		} else {
@@ -45,19 +45,10 @@ func Write(f api.Fire) (string, api.Errno) {
 		}
 	}
 	for _, t := range f.Touches {
-		row(append([]string{touchWord}, written(touchNumbers(&t))...)...)
+		row(append([]string{touchWord}, numeral.Words(touchNumbers(&t)...)...)...)
 	}
 	row(endWord, strconv.Itoa(len(f.Coals)))
 	return text.String(), api.OK
-}
-
-// written returns the words for numbers.
-func written(numbers []*int) []string {
-	var words []string
-	for _, number := range numbers {
-		words = append(words, strconv.Itoa(*number))
-	}
-	return words
 }
 
 // Read returns the fire of a plan; or an error, and the number of the row that is not as it has to be, if there is one.
@@ -100,7 +91,7 @@ func (p *plan) read(_ int, words []string) bool {
 		return p.readTouch(others)
 	case first == endWord:
 		p.ended = true
-		return readNumbers(others, []*int{&p.coals})
+		return numeral.ReadAll(others, digits, &p.coals)
 	}
 	return false
 }
@@ -112,7 +103,7 @@ func (p *plan) readCoal(words []string) bool {
 	}
 	numbers, state := words[:len(words)-1], words[len(words)-1]
 	c := api.Coal{Lit: state == litWord}
-	if !c.Lit && state != coldWord || !readNumbers(numbers, coalNumbers(&c)) {
+	if !c.Lit && state != coldWord || !numeral.ReadAll(numbers, digits, coalNumbers(&c)...) {
 		return false
 	}
 	p.Coals = append(p.Coals, c)
@@ -122,24 +113,9 @@ func (p *plan) readCoal(words []string) bool {
 // readTouch takes what stands behind the word "touch"; it tells whether these are the numbers of a touch.
 func (p *plan) readTouch(words []string) bool {
 	var t api.Touch
-	if !readNumbers(words, touchNumbers(&t)) {
+	if !numeral.ReadAll(words, digits, touchNumbers(&t)...) {
 		return false
 	}
 	p.Touches = append(p.Touches, t)
-	return true
-}
-
-// readNumbers puts the numbers that words are where they belong; it tells whether there are as many words, and each one is a number.
-func readNumbers(words []string, numbers []*int) bool {
-	if len(words) != len(numbers) {
-		return false
-	}
-	for i, word := range words {
-		number, is := numeral.Read(word, digits)
-		if !is {
-			return false
-		}
-		*numbers[i] = number
-	}
 	return true
 }

@@ -1,6 +1,7 @@
 package numeral_test
 
 import (
+	"slices"
 	"strconv"
 	"testing"
 
@@ -27,5 +28,34 @@ func TestWordsThatAreNoNumbers(t *testing.T) {
 		if n, is := numeral.Read(word, 6); n != 0 || is {
 			t.Errorf("%q: %v %v", word, n, is)
 		}
+	}
+}
+
+func TestPlacesOfNumbers(t *testing.T) {
+	for _, c := range []struct {
+		words []string
+		want  [3]int
+		all   bool
+	}{
+		{[]string{"12", "0", "345"}, [3]int{12, 0, 345}, true},
+		{[]string{"12", "0"}, [3]int{7, 7, 7}, false},
+		{[]string{"12", "0", "345", "6"}, [3]int{7, 7, 7}, false},
+		{nil, [3]int{7, 7, 7}, false},
+		// What comes before a word that is no number was put where it belongs.
+		{[]string{"x", "0", "345"}, [3]int{7, 7, 7}, false},
+		{[]string{"12", "", "345"}, [3]int{12, 7, 7}, false},
+		{[]string{"12", "0", "3456"}, [3]int{12, 0, 7}, false},
+	} {
+		got := [3]int{7, 7, 7}
+		if all := numeral.ReadAll(c.words, 3, &got[0], &got[1], &got[2]); all != c.all || got != c.want {
+			t.Error(c, all, got)
+		}
+	}
+	if !numeral.ReadAll(nil, 3) || numeral.ReadAll([]string{"1"}, 3) {
+		t.Error("no places")
+	}
+	a, b := 0, 1203
+	if words := numeral.Words(&a, &b, &a); !slices.Equal(words, []string{"0", "1203", "0"}) || len(numeral.Words()) > 0 {
+		t.Error(words)
 	}
 }
