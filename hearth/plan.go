@@ -15,7 +15,6 @@ const (
 	litWord   = "lit"
 	coldWord  = "cold"
 	touchWord = "touch"
-	endWord   = "end"
 )
 
 // digits is how many digits a number of a plan may have.
@@ -47,7 +46,7 @@ func Write(f api.Fire) (string, api.Errno) {
 	for _, t := range f.Touches {
 		row(append([]string{touchWord}, numeral.Words(touchNumbers(&t)...)...)...)
 	}
-	row(endWord, strconv.Itoa(len(f.Coals)))
+	row(rows.EndWord, strconv.Itoa(len(f.Coals)))
 	return text.String(), api.OK
 }
 
@@ -56,49 +55,33 @@ func Read(text string) (f api.Fire, row int, e api.Errno) {
 	if len(text) > api.MaxPlan {
 		return api.Fire{}, 0, api.ErrLong
 	}
-	var p plan
-	row, all := rows.Read(text, p.read)
-	switch {
-	case !all:
+	row, coals, all := rows.ReadEnded(text, 0, digits, func(_ int, words []string) bool { return readRow(&f, words) })
+	if !all {
 		return api.Fire{}, row, api.ErrForm
-	case !p.ended:
-		return api.Fire{}, row + 1, api.ErrForm
-	case p.coals != len(p.Coals):
+	}
+	if coals != len(f.Coals) {
 		return api.Fire{}, row, api.ErrClash
 	}
-	if e := Check(p.Fire); e != api.OK {
+	if e := Check(f); e != api.OK {
 		return api.Fire{}, 0, e
 	}
-	return p.Fire, 0, api.OK
+	return f, 0, api.OK
 }
 
-// plan is a fire as far as the rows of its plan were read.
-type plan struct {
-	api.Fire
-	ended bool
-	coals int // how many coals there are, as the row "end" says
-}
-
-// read takes the words of a row; it tells whether they are as they have to be.
-func (p *plan) read(_ int, words []string) bool {
-	first, others := words[0], words[1:]
-	switch {
-	case p.ended:
-		return false
-	case first == coalWord:
-		return p.readCoal(others)
-	case first == touchWord:
-		return p.readTouch(others)
-	case first == endWord:
-		p.ended = true
-		return numeral.ReadAll(others, digits, &p.coals)
+// readRow puts what is said by the words of a row into a fire; it tells whether the row is as it has to be.
+func readRow(f *api.Fire, words []string) bool {
+	switch words[0] {
+	case coalWord:
+		return readCoal(f, words[1:])
+	case touchWord:
+		return readTouch(f, words[1:])
 	}
 	return false
 }
 
-// readCoal takes what stands behind the word "coal"; it tells whether these are the numbers of a coal, and whether it is lit, and no touch came before.
-func (p *plan) readCoal(words []string) bool {
-	if len(words) == 0 || len(p.Touches) > 0 {
+// readCoal puts a coal into a fire; it tells whether the words are the numbers of a coal, and whether it is lit, and no touch came before.
+func readCoal(f *api.Fire, words []string) bool {
+	if len(words) == 0 || len(f.Touches) > 0 {
 		return false
 	}
 	numbers, state := words[:len(words)-1], words[len(words)-1]
@@ -106,16 +89,16 @@ func (p *plan) readCoal(words []string) bool {
 	if !c.Lit && state != coldWord || !numeral.ReadAll(numbers, digits, coalNumbers(&c)...) {
 		return false
 	}
-	p.Coals = append(p.Coals, c)
+	f.Coals = append(f.Coals, c)
 	return true
 }
 
-// readTouch takes what stands behind the word "touch"; it tells whether these are the numbers of a touch.
-func (p *plan) readTouch(words []string) bool {
+// readTouch puts a touch into a fire; it tells whether the words are the numbers of a touch.
+func readTouch(f *api.Fire, words []string) bool {
 	var t api.Touch
 	if !numeral.ReadAll(words, digits, touchNumbers(&t)...) {
 		return false
 	}
-	p.Touches = append(p.Touches, t)
+	f.Touches = append(f.Touches, t)
 	return true
 }

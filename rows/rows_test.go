@@ -43,6 +43,59 @@ func TestRows(t *testing.T) {
 	}
 }
 
+func TestRowsThatAreEnded(t *testing.T) {
+	for _, c := range []struct {
+		text        string
+		head        int
+		said        string // the first word of each row that is given
+		row, number int
+		all         bool
+	}{
+		{"end 0\n", 0, "", 1, 0, true},
+		{"end 12\n", 0, "", 1, 12, true},
+		{"a\nb c\nend 2\n", 0, "a b ", 3, 2, true},
+		{"a\nb c\nend 2\n", 2, "a b ", 3, 2, true},
+		// The first rows are given in any case.
+		{"end 1\nend 2\n", 1, "end ", 2, 2, true},
+		{"end 1\nend 2\n", 2, "end end ", 3, 0, false},
+		{"end 1\n", 1, "end ", 2, 0, false},
+		{"end x\nend 1\n", 1, "end ", 2, 1, true},
+		{"no\nend 1\n", 1, "no ", 1, 0, false},
+		// There is no row "end".
+		{"", 0, "", 1, 0, false},
+		{"", 1, "", 1, 0, false},
+		{"a\n", 0, "a ", 2, 0, false},
+		{"a\nb\n", 1, "a b ", 3, 0, false},
+		{"a\nends 1\nEnd 1\n", 0, "a ends End ", 4, 0, false},
+		// It is not ended, or not the last one, or not as it has to be.
+		{"a\nend 1", 0, "a ", 2, 0, false},
+		{"a\nend 1\n\n", 0, "a ", 3, 0, false},
+		{"a\nend 1\nx", 0, "a ", 3, 0, false},
+		{"a\nend 1\nend 1\n", 0, "a ", 3, 0, false},
+		{"end 1\na\n", 0, "", 2, 0, false},
+		{"end\n", 0, "", 1, 0, false},
+		{"end \n", 0, "", 1, 0, false},
+		{"end 1 \n", 0, "", 1, 0, false},
+		{"end  1\n", 0, "", 1, 0, false},
+		{"end 01\n", 0, "", 1, 0, false},
+		{"end -1\n", 0, "", 1, 0, false},
+		{"end 1 2\n", 0, "", 1, 0, false},
+		{"end 99\n", 0, "", 1, 99, true},
+		{"end 100\n", 0, "", 1, 0, false},
+		// Nothing is given behind the first row that is not as it has to be.
+		{"a\nno b\nc\nend 1\n", 0, "a no ", 2, 0, false},
+	} {
+		said := ""
+		row, number, all := rows.ReadEnded(c.text, c.head, 2, func(row int, words []string) bool {
+			said += words[0] + " "
+			return words[0] != "no" && row == strings.Count(said, " ")
+		})
+		if said != c.said || row != c.row || number != c.number || all != c.all {
+			t.Errorf("%q: %q %v %v %v", c.text, said, row, number, all)
+		}
+	}
+}
+
 func TestManyRows(t *testing.T) {
 	count := 0
 	row, all := rows.Read(strings.Repeat("a b\n", 5000), func(row int, words []string) bool {

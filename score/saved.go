@@ -14,7 +14,6 @@ import (
 const (
 	tableWord = "table"
 	guestWord = "guest"
-	endWord   = "end"
 	noneWord  = "-"
 )
 
@@ -46,7 +45,7 @@ func Save(t api.Table) (string, api.Errno) {
 		}
 		row(words...)
 	}
-	row(endWord, strconv.Itoa(len(t.Answers)))
+	row(rows.EndWord, strconv.Itoa(len(t.Answers)))
 	return text.String(), api.OK
 }
 
@@ -64,13 +63,11 @@ func Load(text string) (t api.Table, row int, e api.Errno) {
 		return api.Table{}, 0, api.ErrLong
 	}
 	var l loading
-	row, all := rows.Read(text, l.read)
-	switch {
-	case !all:
+	row, guests, all := rows.ReadEnded(text, 1, digits, l.read)
+	if !all {
 		return api.Table{}, row, api.ErrForm
-	case !l.ended:
-		return api.Table{}, row + 1, api.ErrForm
-	case l.guests != len(l.Answers):
+	}
+	if guests != len(l.Answers) {
 		return api.Table{}, row, api.ErrClash
 	}
 	if e := CheckTable(l.Table); e != api.OK {
@@ -80,26 +77,15 @@ func Load(text string) (t api.Table, row int, e api.Errno) {
 }
 
 // loading is a table as far as its rows were read.
-type loading struct {
-	api.Table
-	ended  bool
-	guests int // how many guests there are, as the row "end" says
-}
+type loading struct{ api.Table }
 
-// read takes the words of a row; it tells whether they are as they have to be.
+// read takes the words of a row but the last one; it tells whether they are as they have to be.
 func (l *loading) read(row int, words []string) bool {
 	first, others := words[0], words[1:]
-	switch {
-	case l.ended:
-		return false
-	case row == 1:
+	if row == 1 {
 		return first == tableWord && l.readTable(others)
-	case first == guestWord:
-		return l.readGuest(others)
-	case first == endWord:
-		return l.readEnd(others)
 	}
-	return false
+	return first == guestWord && l.readGuest(others)
 }
 
 // readTable takes what stands behind the word "table"; it tells whether these are two numbers and a state.
@@ -150,13 +136,4 @@ func numbers(words []string) iter.Seq2[int, bool] {
 			}
 		}
 	}
-}
-
-// readEnd takes what stands behind the word "end"; it tells whether this is a number.
-func (l *loading) readEnd(words []string) bool {
-	if len(words) != 1 {
-		return false
-	}
-	l.guests, l.ended = numeral.Read(words[0], digits)
-	return l.ended
 }
