@@ -1,6 +1,9 @@
 package hearth
 
-import "aloeswood/api"
+import (
+	"aloeswood/api"
+	"aloeswood/span"
+)
 
 // ember is what is known of a coal in a fire: when it begins to burn, for how many minutes it burns, and how much heat it gives in each.
 type ember struct{ begins, burn, heat known }
@@ -97,7 +100,7 @@ func Heat(f api.Fire, minute int) (api.Span, api.Errno) {
 	if e := Check(f); e != api.OK {
 		return api.Span{}, e
 	}
-	if !isWithin(minute, 0, api.MaxHearth) {
+	if !span.Within(minute, 0, api.MaxHearth) {
 		return api.Span{}, api.ErrRange
 	}
 	return heatOf(embers(f), minute).span(), api.OK

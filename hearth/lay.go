@@ -4,6 +4,7 @@ import (
 	"slices"
 
 	"aloeswood/api"
+	"aloeswood/span"
 )
 
 // Lay returns the fewest coals with which alone the kettle surely sings in each minute from one to another; of several choices the first one.
@@ -12,7 +13,7 @@ func Lay(k api.Kettle, f api.Fire, l []api.Pour, from, to int) ([]int, api.Errno
 	if e != api.OK {
 		return nil, e
 	}
-	if !isWithin(from, 0, api.MaxHearth) || !isWithin(to, 0, api.MaxHearth) {
+	if !span.Within(from, 0, api.MaxHearth) || !span.Within(to, 0, api.MaxHearth) {
 		return nil, api.ErrRange
 	}
 	if from > to {

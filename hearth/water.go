@@ -4,6 +4,7 @@ import (
 	"iter"
 
 	"aloeswood/api"
+	"aloeswood/span"
 )
 
 // boiling is a valid kettle over the coals of a fire, with the pours for it.
@@ -27,7 +28,7 @@ func boilingOf(k api.Kettle, f api.Fire, l []api.Pour) (boiling, api.Errno) {
 // boilingFor returns a kettle over a fire for so many minutes; or the first error of all of them.
 func boilingFor(k api.Kettle, f api.Fire, l []api.Pour, minutes int) (boiling, api.Errno) {
 	b, e := boilingOf(k, f, l)
-	if e == api.OK && !isWithin(minutes, 0, api.MaxHearth) {
+	if e == api.OK && !span.Within(minutes, 0, api.MaxHearth) {
 		return boiling{}, api.ErrRange
 	}
 	return b, e

@@ -5,6 +5,7 @@ import (
 	"slices"
 
 	"aloeswood/api"
+	"aloeswood/span"
 )
 
 // slip is what a lapse makes of an accepted rite.
@@ -21,7 +22,7 @@ func slipped(r api.Rite, act, kind int) (slip, api.Errno) {
 	if !isOne(act, len(r.Acts)) {
 		return slip{}, api.ErrMissing
 	}
-	if !isWithin(kind, api.LapseSkip, api.LapseLate) {
+	if !span.Within(kind, api.LapseSkip, api.LapseLate) {
 		return slip{}, api.ErrKind
 	}
 	if kind == api.LapseHand && !hasHand(r.Acts[act]) {

@@ -1,13 +1,16 @@
 package seat
 
-import "aloeswood/api"
+import (
+	"aloeswood/api"
+	"aloeswood/span"
+)
 
 // Invite returns the guests, at most as many as there are seats, who keep all bonds and have the greatest honour: of several lists the first one of the fewest guests; and this honour.
 func Invite(l []api.Guest, bonds []api.Bond, seats int) (list []int, honour int, e api.Errno) {
 	if e := checkBonds(l, bonds); e != api.OK {
 		return nil, 0, e
 	}
-	if !isWithin(seats, 0, api.MaxSeats) {
+	if !span.Within(seats, 0, api.MaxSeats) {
 		return nil, 0, api.ErrRange
 	}
 	// If nobody is invited, all bonds are kept.
@@ -36,7 +39,7 @@ func checkBonds(l []api.Guest, bonds []api.Bond) api.Errno {
 		switch {
 		case b.Kind != api.BondFeud && b.Kind != api.BondWith:
 			return api.ErrKind
-		case !isWithin(b.A, 0, len(l)-1) || !isWithin(b.B, 0, len(l)-1):
+		case !span.Within(b.A, 0, len(l)-1) || !span.Within(b.B, 0, len(l)-1):
 			return api.ErrMissing
 		case b.A == b.B:
 			return api.ErrForm

@@ -5,11 +5,12 @@ import (
 	"slices"
 
 	"aloeswood/api"
+	"aloeswood/span"
 )
 
 // checkDish returns the first error of a dish.
 func checkDish(d api.Dish) api.Errno {
-	if !isWithin(d.Turn, 0, api.MaxTurns-1) || !isWithin(d.Parts, 0, api.MaxParts) || !isWithin(d.Cost, 0, api.MaxCost) {
+	if !span.Within(d.Turn, 0, api.MaxTurns-1) || !span.Within(d.Parts, 0, api.MaxParts) || !span.Within(d.Cost, 0, api.MaxCost) {
 		return api.ErrRange
 	}
 	return api.OK
@@ -42,7 +43,7 @@ func Menu(l []api.Guest, dishes []api.Dish, turns, need int) (menu []int, cost i
 	if e := checkDishes(l, dishes); e != api.OK {
 		return nil, 0, e
 	}
-	if !isWithin(turns, 1, api.MaxTurns) || !isWithin(need, 0, turns) {
+	if !span.Within(turns, 1, api.MaxTurns) || !span.Within(need, 0, turns) {
 		return nil, 0, api.ErrRange
 	}
 	for m := range menus(dishes, turns) {

@@ -6,6 +6,7 @@ import (
 	"slices"
 
 	"aloeswood/api"
+	"aloeswood/span"
 )
 
 // lists hands out all lists of so many of the numbers below a count, in lexicographic order, in which each number fits behind those before it. A list that is handed out is changed afterwards.
@@ -41,7 +42,7 @@ func orders(guests int) iter.Seq[[]int] {
 // isOrder tells whether a list is an order of so many guests.
 func isOrder(list []int, guests int) bool {
 	for i, guest := range list {
-		if !isWithin(guest, 0, guests-1) || slices.Contains(list[:i], guest) {
+		if !span.Within(guest, 0, guests-1) || slices.Contains(list[:i], guest) {
 			return false
 		}
 	}
